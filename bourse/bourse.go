@@ -49,20 +49,5 @@ type Event struct{ Kind, Client, Id, Other, Price, Qty int }
 // Level is what rests at a price.
 type Level struct{ Price, Qty, Orders int }
 
-// Book is orders that rest. Make it by New.
-type Book struct{}
-
-// New makes a book (P2).
-func New() *Book { return &Book{} }
-
-// Do does a command (P3 to P7). Not built yet: it tells nothing.
-func (b *Book) Do(c Command) []Event { return nil }
-
-// Depth tells what rests on a side (P8). Not built yet: as long as Do is not, nothing rests.
-func (b *Book) Depth(side int) []Level { return nil }
-
-// Left tells what is left of an order (P8). Not built yet: as long as Do is not, nothing rests.
-func (b *Book) Left(id int) (int, Errno) { return 0, ErrNone }
-
 // Run does commands in stages, over a ring (P11). Not built yet: it does none.
 func Run(size int, commands []Command) ([][]Event, string, Errno) { return nil, "", OK }

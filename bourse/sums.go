@@ -6,15 +6,14 @@ import "sync"
 const polynomial = 0xedb88320
 
 // sumTable holds, of each four bits that a sum can end with, what four
-// halvings make of them. Four bits and not eight, because the table is kept
-// for as long as the program runs and is to be small.
+// halvings make of them. A call that may want sums has one of its own, so that
+// nothing is kept from call to call, and the first sum fills it: see Once in
+// DOC.md's Ways. Four bits and not eight, because most calls want one sum, and
+// 256 words would cost more than they save.
 type sumTable struct {
 	once  sync.Once
 	words [16]uint32
 }
-
-// sums is filled by the first sum that is asked for: see Once in DOC.md's Ways.
-var sums = sumTable{}
 
 // sum answers the CRC-32 of data.
 func (t *sumTable) sum(data string) uint32 {

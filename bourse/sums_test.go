@@ -8,6 +8,7 @@ import (
 )
 
 func TestSumIsTheCRC32(t *testing.T) {
+	sums := sumTable{}
 	data := "123456789"
 	if n := sums.sum(data); n != 0xcbf43926 {
 		t.Errorf("P9: the sum of %q is %#x", data, n)
@@ -26,6 +27,11 @@ func TestTableIsMadeWhenItIsWantedFirst(t *testing.T) {
 	table := sumTable{}
 	if table.words != [16]uint32{} {
 		t.Error("Ways, Once: the table is there before it is wanted")
+	}
+	table.encode(Command{})
+	table.decode("no command")
+	if table.words != [16]uint32{} {
+		t.Error("Ways, Once: the table is made for what has no sum")
 	}
 	table.sum("")
 	if table.words == [16]uint32{} {

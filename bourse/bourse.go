@@ -48,6 +48,3 @@ type Event struct{ Kind, Client, Id, Other, Price, Qty int }
 
 // Level is what rests at a price.
 type Level struct{ Price, Qty, Orders int }
-
-// Run does commands in stages, over a ring (P11). Not built yet: it does none.
-func Run(size int, commands []Command) ([][]Event, string, Errno) { return nil, "", OK }

@@ -114,17 +114,6 @@ func TestReplayAnswersNewMemory(t *testing.T) {
 	}
 }
 
-func TestRunLeavesItsCommandsAsTheyWere(t *testing.T) {
-	commands := append(fairSamples(), Command{9, 9, 9, 9, 9, 9})
-	before := slices.Clone(commands)
-	for _, size := range []int{-1, 0, 1, 2, 3, 4, 8, 16, 17} {
-		Run(size, commands)
-	}
-	if !slices.Equal(commands, before) {
-		t.Errorf("P1: Run has changed its commands to %v", commands)
-	}
-}
-
 func TestAnswersHangOnArgumentsAlone(t *testing.T) {
 	want := fairSamples()
 	journal := journalOf(want)

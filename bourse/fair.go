@@ -9,7 +9,7 @@ const (
 
 // fair tells whether a command's numbers may stand together (P3).
 func fair(c Command) bool {
-	if !within(c.Client, 0, maxClients-1) || !within(c.Id, 0, maxId) {
+	if !isClient(c.Client) || !within(c.Id, 0, maxId) {
 		return false
 	}
 	switch c.Kind {
@@ -24,6 +24,8 @@ func fair(c Command) bool {
 	}
 	return false
 }
+
+func isClient(client int) bool { return within(client, 0, maxClients-1) }
 
 func isSide(side int) bool { return side == Buy || side == Sell }
 
